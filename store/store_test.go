@@ -448,11 +448,11 @@ func TestOpenCapacity_12_2(t *testing.T) {
 // pieces are the bytes that short texts are made of: those that may be a length, and letters.
 func pieces() string { return "S\x00\x01\x02ab" }
 
-// images are all images of at most so many bytes with keys and data of these bytes alone.
+// images are all images of at most so many bytes with keys and data of at most two of these bytes.
 func images(most int) map[string]bool {
 	found := map[string]bool{}
 	var texts []string
-	for n := range 4 {
+	for n := range 3 {
 		texts = append(texts, textsOf(n, pieces())...)
 	}
 	var grow func(list []pair)
@@ -463,11 +463,13 @@ func images(most int) map[string]bool {
 		}
 		found[b] = true
 		for _, key := range texts {
-			if key == "" || len(list) > 0 && key <= list[len(list)-1].key || len(b)+5+len(key) > most {
+			if key == "" || len(list) > 0 && key <= list[len(list)-1].key {
 				continue
 			}
 			for _, data := range texts {
-				grow(append(slices.Clip(list), pair{key, data}))
+				if len(b)+5+len(key)+len(data) <= most {
+					grow(append(slices.Clip(list), pair{key, data}))
+				}
 			}
 		}
 	}
@@ -521,7 +523,7 @@ func TestOpenShort_12_2(t *testing.T) {
 }
 
 func TestOpenTwo_12_2(t *testing.T) {
-	right := images(14)
+	right := images(15)
 	if len(right) < 500 {
 		t.Fatalf("%d images", len(right))
 	}
@@ -1575,15 +1577,15 @@ func TestSameTwice_R2(t *testing.T) {
 		for range 3 {
 			r := rand.New(rand.NewSource(int64(9000 + seed)))
 			s := made(t, 3000)
-			said := ""
+			var said strings.Builder
 			for i := range 300 {
 				c := chance(r)
 				if i%3 == 0 {
 					c = put(fmt.Sprint("k", r.Intn(50)), fmt.Sprint(i))
 				}
-				said += c.say(s) + "|" + all(s)
+				said.WriteString(c.say(s) + "|" + all(s))
 			}
-			answers = append(answers, said)
+			answers = append(answers, said.String())
 		}
 		if answers[0] != answers[1] || answers[0] != answers[2] {
 			t.Fatalf("seed %d: one script, unlike answers", seed)

@@ -562,7 +562,7 @@ func stayed(t *testing.T, st *store.Store, s *seat.Seat, from api.Opts, leaves [
 	}
 }
 
-// TestNoRoom_19_6: in stores of every capacity, by Run and by Steps: all is there, or nothing has moved.
+// TestNoRoom_19_6: in stores of many capacities, from one without any room to one with enough, by Run and by Steps: all is there, or nothing has moved.
 func TestNoRoom_19_6(t *testing.T) {
 	t.Parallel()
 	leaves := letters("abcdefghi")

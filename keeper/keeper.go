@@ -1,4 +1,4 @@
-// Package keeper: what all engines have in common: see doc/15-lone.md, "All engines". The seat keeps its manifests by it, too, and the queue its submissions.
+// Package keeper: what all engines have in common: see doc/15-lone.md, "All engines". The seat keeps its manifests by it, too, the queue its submissions, and the witness what it has cosigned.
 package keeper
 
 import (
